@@ -610,33 +610,45 @@ func devicesInMemory() [][]impl.Block {
 	return slices.Concat(validDevices(), devicesOfOtherSize(), wrong)
 }
 
+// expectGivenNotWritten expects that a call writes nothing into its device, nor behind it.
+func expectGivenNotWritten(t *testing.T, c deviceCall, d []impl.Block) {
+	t.Helper()
+	given := deviceWithRoom(d)
+	before := allMemory(given)
+	c.call(given)
+	if !sameDevice(given, d) || !sameDevice(allMemory(given), before) {
+		t.Fatalf("%s: writes into %+v", c.name, d)
+	}
+}
+
 func TestDevicesGivenAreNotWrittenTo(t *testing.T) {
 	for _, c := range deviceCalls() {
 		for _, d := range devicesInMemory() {
-			given := deviceWithRoom(d)
-			before := allMemory(given)
-			c.call(given)
-			if !sameDevice(given, d) || !sameDevice(allMemory(given), before) {
-				t.Fatalf("%s: writes into %+v", c.name, d)
-			}
+			expectGivenNotWritten(t, c, d)
 		}
+	}
+}
+
+// expectNewMemory expects that what is written into a result changes neither the argument nor another result.
+func expectNewMemory(t *testing.T, c deviceCall, d []impl.Block) {
+	t.Helper()
+	given := deviceWithRoom(d)
+	before := allMemory(given)
+	other := c.call(given)
+	otherBefore := cloneBlocks(other)
+	overwriteDevice(c.call(given))
+	if !sameDevice(given, d) || !sameDevice(allMemory(given), before) {
+		t.Fatalf("%s: shares memory with %+v", c.name, d)
+	}
+	if !sameDevice(other, otherBefore) {
+		t.Fatalf("%s: of %+v shares memory with another result", c.name, d)
 	}
 }
 
 func TestDevicesReturnedShareNoMemory(t *testing.T) {
 	for _, c := range deviceCalls() {
 		for _, d := range devicesInMemory() {
-			given := deviceWithRoom(d)
-			before := allMemory(given)
-			other := c.call(given)
-			otherBefore := cloneBlocks(other)
-			overwriteDevice(c.call(given))
-			if !sameDevice(given, d) || !sameDevice(allMemory(given), before) {
-				t.Fatalf("%s: shares memory with %+v", c.name, d)
-			}
-			if !sameDevice(other, otherBefore) {
-				t.Fatalf("%s: of %+v shares memory with another result", c.name, d)
-			}
+			expectNewMemory(t, c, d)
 		}
 	}
 }
