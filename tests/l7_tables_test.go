@@ -840,33 +840,45 @@ func tablesInMemory() []impl.Table {
 	return append(validTables(), someInvalidTables()...)
 }
 
+// expectTableNotWritten expects that a call writes nothing into its table, nor behind it.
+func expectTableNotWritten(t *testing.T, c tableCall, x impl.Table) {
+	t.Helper()
+	given := tableWithRoom(x)
+	before := allNumbers(given)
+	c.call(given)
+	if !sameTable(given, x) || !sameTable(allNumbers(given), before) {
+		t.Fatalf("%s: writes into %v", c.name, x)
+	}
+}
+
 func TestTablesGivenAreNotWrittenTo(t *testing.T) {
 	for _, c := range tableCalls() {
 		for _, x := range tablesInMemory() {
-			given := tableWithRoom(x)
-			before := allNumbers(given)
-			c.call(given)
-			if !sameTable(given, x) || !sameTable(allNumbers(given), before) {
-				t.Fatalf("%s: writes into %v", c.name, x)
-			}
+			expectTableNotWritten(t, c, x)
 		}
+	}
+}
+
+// expectNewTable expects that what is written into a result changes neither the argument nor another result.
+func expectNewTable(t *testing.T, c tableCall, x impl.Table) {
+	t.Helper()
+	given := tableWithRoom(x)
+	before := allNumbers(given)
+	other := c.call(given)
+	otherBefore := cloneTable(other)
+	overwriteTable(c.call(given))
+	if !sameTable(given, x) || !sameTable(allNumbers(given), before) {
+		t.Fatalf("%s: shares memory with %v", c.name, x)
+	}
+	if !sameTable(other, otherBefore) {
+		t.Fatalf("%s: of %v shares memory with another result", c.name, x)
 	}
 }
 
 func TestTablesReturnedShareNoMemory(t *testing.T) {
 	for _, c := range tableCalls() {
 		for _, x := range tablesInMemory() {
-			given := tableWithRoom(x)
-			before := allNumbers(given)
-			other := c.call(given)
-			otherBefore := cloneTable(other)
-			overwriteTable(c.call(given))
-			if !sameTable(given, x) || !sameTable(allNumbers(given), before) {
-				t.Fatalf("%s: shares memory with %v", c.name, x)
-			}
-			if !sameTable(other, otherBefore) {
-				t.Fatalf("%s: of %v shares memory with another result", c.name, x)
-			}
+			expectNewTable(t, c, x)
 		}
 	}
 }
