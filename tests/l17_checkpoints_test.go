@@ -1019,48 +1019,65 @@ func saveWithRoom(s impl.Save) (impl.Save, []int) {
 	return impl.Save{Number: s.Number, Pages: room[:len(s.Pages)], Sum: s.Sum}, room
 }
 
+// expectSaveNotWritten expects that a call writes nothing into its save, nor behind it, and that what is written into the table does not, either.
+func expectSaveNotWritten(t *testing.T, c saveCall, s impl.Save) {
+	t.Helper()
+	given, room := saveWithRoom(s)
+	before := slices.Clone(room)
+	x := c.call(given)
+	if !sameSave(given, s) || !slices.Equal(room, before) {
+		t.Fatalf("%s(%+v) writes into it", c.name, s)
+	}
+	overwriteTable(x)
+	if !slices.Equal(room, before) {
+		t.Fatalf("%s(%+v) shares memory with it", c.name, s)
+	}
+}
+
 func TestSavesGivenAreNotWrittenTo(t *testing.T) {
 	for _, c := range saveCalls() {
 		for _, s := range savesInMemory() {
-			given, room := saveWithRoom(s)
-			before := slices.Clone(room)
-			x := c.call(given)
-			if !sameSave(given, s) || !slices.Equal(room, before) {
-				t.Fatalf("%s(%+v) writes into it", c.name, s)
-			}
-			overwriteTable(x)
-			if !slices.Equal(room, before) {
-				t.Fatalf("%s(%+v) shares memory with it", c.name, s)
-			}
+			expectSaveNotWritten(t, c, s)
 		}
 	}
+}
+
+// expectNewTableOfSave expects that what is written into a table does not change another result, nor one list of it another one.
+func expectNewTableOfSave(t *testing.T, c saveCall, s impl.Save) {
+	t.Helper()
+	other := c.call(s)
+	otherBefore := cloneTable(other)
+	overwriteTable(c.call(s))
+	if !sameTable(other, otherBefore) || !sameTable(c.call(s), otherBefore) {
+		t.Fatalf("%s(%+v) shares memory with another result", c.name, s)
+	}
+	expectListsApart(t, c.name, other)
 }
 
 func TestTablesOfSavesShareNoMemory(t *testing.T) {
 	for _, c := range saveCalls() {
 		for _, s := range savesInMemory() {
-			other := c.call(s)
-			otherBefore := cloneTable(other)
-			overwriteTable(c.call(s))
-			if !sameTable(other, otherBefore) || !sameTable(c.call(s), otherBefore) {
-				t.Fatalf("%s(%+v) shares memory with another result", c.name, s)
-			}
-			expectListsApart(t, c.name, other)
+			expectNewTableOfSave(t, c, s)
 		}
 	}
 }
 
-// What is written into a save, or behind its pages, does not change the table that was loaded.
+// expectTableStays expects that what is written into a save, or behind its pages, does not change the table that was returned for it.
+func expectTableStays(t *testing.T, c saveCall, s impl.Save) {
+	t.Helper()
+	given, room := saveWithRoom(s)
+	x := c.call(given)
+	before := cloneTable(x)
+	overwriteLists([][]int{room})
+	if !sameTable(x, before) {
+		t.Fatalf("%s(%+v) = %v, which shares memory with it", c.name, before, x)
+	}
+}
+
 func TestP11LoadedTablesStayWhenTheSaveIsWrittenTo(t *testing.T) {
 	for _, c := range saveCalls() {
 		for _, s := range savesInMemory() {
-			given, room := saveWithRoom(s)
-			x := c.call(given)
-			before := cloneTable(x)
-			overwriteLists([][]int{room})
-			if !sameTable(x, before) {
-				t.Fatalf("%s(%+v) = %v, which shares memory with it", c.name, before, x)
-			}
+			expectTableStays(t, c, s)
 		}
 	}
 }
